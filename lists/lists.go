@@ -48,3 +48,25 @@ func Rising(many int) iter.Seq[[]int] {
 		}
 	}
 }
+
+// Choices yields all lists that have one number of each of the ranges, whose limits are numbers of theirs, too: in lexicographic order, each in memory of its own.
+func Choices[R any](ranges []R, limits func(R) (low, high int)) iter.Seq[[]int] {
+	return func(yield func([]int) bool) {
+		list := make([]int, len(ranges))
+		var choose func(i int) bool
+		choose = func(i int) bool {
+			if i == len(ranges) {
+				return yield(slices.Clone(list))
+			}
+			low, high := limits(ranges[i])
+			for n := low; n <= high; n++ {
+				list[i] = n
+				if !choose(i + 1) {
+					return false
+				}
+			}
+			return true
+		}
+		choose(0)
+	}
+}

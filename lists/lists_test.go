@@ -90,3 +90,50 @@ func TestRisingListsAreInMemoryOfTheirOwn(t *testing.T) {
 		t.Errorf("the lists share memory: %v", all)
 	}
 }
+
+// span is a range of some layer.
+type span struct{ low, high int }
+
+func (s span) limits() (int, int) { return s.low, s.high }
+
+func TestChoices(t *testing.T) {
+	for _, x := range []struct {
+		ranges []span
+		want   [][]int
+	}{
+		{nil, [][]int{{}}},
+		{[]span{{5, 5}}, [][]int{{5}}},
+		{[]span{{-1, 1}}, [][]int{{-1}, {0}, {1}}},
+		{[]span{{1, 2}, {7, 7}, {3, 5}}, [][]int{{1, 7, 3}, {1, 7, 4}, {1, 7, 5}, {2, 7, 3}, {2, 7, 4}, {2, 7, 5}}},
+		{[]span{{1, 2}, {4, 3}}, nil},
+	} {
+		if all := slices.Collect(lists.Choices(x.ranges, span.limits)); !slices.EqualFunc(all, x.want, slices.Equal) {
+			t.Errorf("Choices of %v: %v", x.ranges, all)
+		}
+	}
+}
+
+func TestChoicesMayBeLeft(t *testing.T) {
+	many := 0
+	for l := range lists.Choices([]span{{0, 9}, {0, 9}, {0, 9}}, span.limits) {
+		many++
+		if slices.Equal(l, []int{1, 2, 3}) {
+			break
+		}
+	}
+	if many != 124 {
+		t.Errorf("left after %d lists", many)
+	}
+}
+
+func TestChoicesAreInMemoryOfTheirOwn(t *testing.T) {
+	ranges := []span{{0, 1}, {0, 1}}
+	for l := range lists.Choices(ranges, span.limits) {
+		l[0] = 99
+	}
+	all := slices.Collect(lists.Choices(ranges, span.limits))
+	all[0][0] = 99
+	if !slices.Equal(all[1], []int{0, 1}) || !slices.Equal(ranges, []span{{0, 1}, {0, 1}}) {
+		t.Errorf("the lists share memory: %v", all)
+	}
+}
