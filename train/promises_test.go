@@ -316,6 +316,55 @@ func TestP6_3_LatestAndLeastOfTheChapter(t *testing.T) {
 	}
 }
 
+func TestP6_3_LeastAsksAllWaysBack(t *testing.T) {
+	// With its own load all go in one trip, after which it does not matter how long the way back is; with a smaller one it does.
+	for _, x := range []struct {
+		back, minute, want int
+	}{{0, 30, 1}, {7, 29, 1}, {7, 28, 2}, {8, 30, 2}, {20, 30, 2}, {20, 29, 3}, {20, 55, 1}, {20, 54, 2}, {60, 5, 3}} {
+		m := alone(3, 10, 0, x.minute, 5, 0)
+		m.Back = to(0, x.back)
+		if n, e := train.Least(m); n != x.want || e != api.OK {
+			t.Errorf("Least of %v: %d, %v, not %d", m, n, e, x.want)
+		}
+	}
+}
+
+func TestP6_3_LeastDoesNotDependOnTheLoad(t *testing.T) {
+	several := 0
+	for _, m := range mornings(150, 27) {
+		want, code := train.Least(m)
+		for m.Load = 1; m.Load <= 10; m.Load++ {
+			if n, e := train.Least(m); n != want || e != code {
+				t.Fatalf("Least of %v: %d, %v, but %d, %v with another load", m, n, e, want, code)
+			}
+		}
+		if code == api.OK && want > 1 {
+			several++
+		}
+	}
+	if several < 20 {
+		t.Errorf("only %d mornings need a load of more than one", several)
+	}
+}
+
+func TestP6_3_LatestDoesNotDependOnTheStart(t *testing.T) {
+	several := 0
+	for _, m := range mornings(150, 28) {
+		want, code := train.Latest(m)
+		for m.Start = 0; m.Start <= 600; m.Start += 40 {
+			if n, e := train.Latest(m); n != want || e != code {
+				t.Fatalf("Latest of %v: %d, %v, but %d, %v with another start", m, n, e, want, code)
+			}
+		}
+		if code == api.OK && want < 600 {
+			several++
+		}
+	}
+	if several < 50 {
+		t.Errorf("only %d mornings have a latest start before 600", several)
+	}
+}
+
 func TestP6_3_LatestAndLeastAgreeWithTheDefinitions(t *testing.T) {
 	seen := map[string]int{}
 	for _, m := range mornings(250, 13) {

@@ -63,9 +63,9 @@ func (r rights) firstWrong() int {
 
 // rightIn returns which reports are right if this is what happens.
 func (m Morning) rightIn(r Run) rights {
-	all, kinds := allRight(), allKinds()
+	all, known := allRight(), allKinds()
 	for n, what := range m.Reports {
-		all[n] = kinds.isRight(what, r)
+		all[n] = known.isRight(what, r)
 	}
 	return all
 }
