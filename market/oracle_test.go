@@ -263,7 +263,7 @@ func anyDay(r *rand.Rand) bunch.Day {
 	flats := loaded(d)
 	n := flats.Lo + r.Intn(flats.Hi-flats.Lo+1)
 	with := counted(d, max(0, n-r.Intn(2)), n+r.Intn(2))
-	// In no truth there may be as many flats as between the bounds.
+	// There need not be a truth for each number between the bounds.
 	if _, e := bunch.Bounds(with); e == api.OK && r.Intn(3) == 0 {
 		return with
 	}
