@@ -42,6 +42,7 @@ func feel(n []int) bunch.Range {
 	return bunch.Range(narrow(feelWide, api.MaxBunchFeel, n))
 }
 
+// notch returns the number, which must be one that a board can have. (A Need is one, too.)
 func notch(n int) int {
 	must(api.ErrRange, n <= api.MaxBedNotch)
 	return n
